@@ -1,6 +1,9 @@
 package impl
 
-import "strconv"
+import (
+	"strconv"
+	"strings"
+)
 
 const MaxVarint = 562949953421311
 
@@ -133,4 +136,30 @@ func parseDigits(digits string) (int, bool) {
 		n = 10*n + int(r-'0')
 	}
 	return n, true
+}
+
+func joinNumbers(numbers []int, separator string) string {
+	texts := make([]string, len(numbers))
+	for i, n := range numbers {
+		texts[i] = FormatInt(n)
+	}
+	return strings.Join(texts, separator)
+}
+
+// splitNumbers reads what joinNumbers writes for one number or more; it refuses more than most of them.
+func splitNumbers(s string, separator string, most int) ([]int, bool) {
+	// One text more than allowed is enough to refuse the rest.
+	texts := strings.SplitN(s, separator, most+1)
+	if len(texts) > most {
+		return nil, false
+	}
+	numbers := make([]int, len(texts))
+	for i, text := range texts {
+		n, ok := ParseInt(text)
+		if !ok {
+			return nil, false
+		}
+		numbers[i] = n
+	}
+	return numbers, true
 }
