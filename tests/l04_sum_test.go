@@ -487,11 +487,7 @@ func TestSumsOfNoGroup(t *testing.T) {
 
 // TestSumArgumentsAreKept calls every function with slices that have unused capacity.
 func TestSumArgumentsAreKept(t *testing.T) {
-	for _, orders := range [][]int{{}, {24}, {2, 3}, {2, 3, 4}, {5, 5}, {2, 2, 2, 2}} {
-		memory := []int{91, 92, 93, 94, 95, 96, 97, 98}
-		copy(memory, orders)
-		kept := slices.Clone(memory)
-		g := impl.Group{Orders: memory[:len(orders)]}
+	checkGroupsAreKept(t, func(g impl.Group) {
 		for _, a := range []int{-1, 0, 1, 41} {
 			impl.SumOfSets(g, a, 1)
 			impl.DifferenceOfSets(g, a, 1)
@@ -499,16 +495,10 @@ func TestSumArgumentsAreKept(t *testing.T) {
 			impl.RestrictedSum(g, a, 1)
 			impl.CountSums(g, a, 1, 0)
 			table := impl.SumTable(g, a, 1)
-			for i := range table {
-				table[i] = 71
-			}
-			_ = append(table, 72, 73, 74)
+			overwrite(table)
 			impl.SubsetSums(g, a)
 		}
-		if !slices.Equal(memory, kept) {
-			t.Errorf("%v: the argument became %v", orders, memory)
-		}
-	}
+	})
 	first := impl.SumTable(group(6), 41, 1)
 	first[0] = 71
 	if second := impl.SumTable(group(6), 41, 1); !slices.Equal(second, []int{1, 0, 0, 1, 0, 1}) {

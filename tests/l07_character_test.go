@@ -690,26 +690,16 @@ func TestCountsOutOfRange(t *testing.T) {
 
 // TestCharacterArgumentsAreKept calls every function with slices that have unused capacity.
 func TestCharacterArgumentsAreKept(t *testing.T) {
-	for _, orders := range [][]int{{}, {24}, {2, 3}, {2, 3, 4}, {5, 5}, {2, 2, 2, 2}} {
-		memory := []int{91, 92, 93, 94, 95, 96, 97, 98}
-		copy(memory, orders)
-		kept := slices.Clone(memory)
-		g := impl.Group{Orders: memory[:len(orders)]}
+	checkGroupsAreKept(t, func(g impl.Group) {
 		for _, a := range []int{-1, 0, 1, 41} {
 			impl.CharacterValue(g, a, a)
 			impl.AnnihilatorOf(g, a)
 			impl.KernelOf(g, a)
 			impl.IsZeroCoefficient(g, a, 0)
 			list := impl.CoefficientCounts(g, a, 0)
-			for i := range list {
-				list[i] = 71
-			}
-			_ = append(list, 72, 73, 74)
+			overwrite(list)
 		}
-		if !slices.Equal(memory, kept) {
-			t.Errorf("%v: the argument became %v", orders, memory)
-		}
-	}
+	})
 	first := impl.CoefficientCounts(group(6), 11, 2)
 	first[0] = 71
 	if second := impl.CoefficientCounts(group(6), 11, 2); !slices.Equal(second, []int{2, 0, 1, 0, 0, 0}) {
@@ -723,10 +713,7 @@ func TestCountArgumentsAreKept(t *testing.T) {
 	// The second pair overlaps, the third is one list, and the last one is not valid.
 	for _, pair := range [][2][]int{{memory[:3], memory[4:7]}, {memory[:4], memory[2:6]}, {memory[:5], memory[:5]}, {memory[:1], memory[1:2]}, {memory[:2], memory[:3]}} {
 		for _, list := range [][]int{impl.AddCounts(pair[0], pair[1]), impl.MultiplyCounts(pair[0], pair[1])} {
-			for i := range list {
-				list[i] = 71
-			}
-			_ = append(list, 72, 73, 74)
+			overwrite(list)
 		}
 		if !slices.Equal(memory, kept) {
 			t.Fatalf("%v: the arguments became %v", pair, memory)

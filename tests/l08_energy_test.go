@@ -652,26 +652,16 @@ func TestTablesOutOfRange(t *testing.T) {
 
 // TestEnergyArgumentsAreKept calls every function with slices that have unused capacity.
 func TestEnergyArgumentsAreKept(t *testing.T) {
-	for _, orders := range [][]int{{}, {24}, {2, 3}, {2, 3, 4}, {5, 5}, {2, 2, 2, 2}} {
-		memory := []int{91, 92, 93, 94, 95, 96, 97, 98}
-		copy(memory, orders)
-		kept := slices.Clone(memory)
-		g := impl.Group{Orders: memory[:len(orders)]}
+	checkGroupsAreKept(t, func(g impl.Group) {
 		for _, a := range []int{-1, 0, 1, 41} {
 			impl.EnergyOf(g, a, 1)
 			impl.QuadruplesOf(g, a)
 			impl.PopularSums(g, a, 1, 1)
 			impl.TripleCount(g, a, 1, 1)
 			table := impl.CorrelationOf(g, a, 1)
-			for i := range table {
-				table[i] = 71
-			}
-			_ = append(table, 72, 73, 74)
+			overwrite(table)
 		}
-		if !slices.Equal(memory, kept) {
-			t.Errorf("%v: the argument became %v", orders, memory)
-		}
-	}
+	})
 	first := impl.CorrelationOf(group(6), 41, 1)
 	first[0] = 71
 	if second := impl.CorrelationOf(group(6), 41, 1); !slices.Equal(second, []int{1, 0, 0, 1, 0, 1}) {
@@ -686,10 +676,7 @@ func TestTableArgumentsAreKept(t *testing.T) {
 	// The second pair overlaps, the third is one list, and the last one is not valid.
 	for _, pair := range [][2][]int{{memory[:3], memory[4:7]}, {memory[:3], memory[2:5]}, {memory[1:4], memory[1:4]}, {memory[:3], memory[:2]}} {
 		products := impl.ConvolveTables(g, pair[0], pair[1])
-		for i := range products {
-			products[i] = 71
-		}
-		_ = append(products, 72, 73, 74)
+		overwrite(products)
 		if !slices.Equal(memory, kept) {
 			t.Fatalf("%v: the arguments became %v", pair, memory)
 		}
